@@ -200,6 +200,16 @@ func leakHeap() impl.Heap {
 		thing{slot: 3, gen: 4, field: [3]int{-1, -1, -1}})
 }
 
+// oneListHeap: the fields of all objects and the buffer are one list.
+func oneListHeap() impl.Heap {
+	h := fullHeap()
+	for slot := range h.Objs {
+		h.Objs[slot].Field = h.Objs[0].Field
+	}
+	h.Buffer = h.Objs[0].Field
+	return h
+}
+
 func rightHeaps() map[string]impl.Heap {
 	again := heapWith([]string{"a"}, thing{slot: 0, gen: 2, holds: 1, field: [3]int{-1, -1, -1}})
 	again.Weaks[0] = impl.Weak{Used: true, Target: 8}

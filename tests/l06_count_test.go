@@ -597,11 +597,7 @@ func TestCountedOfWrongHeaps(t *testing.T) {
 
 // Lists that are one in what is handed in are two in the answer.
 func TestGainAndLoseOfListsThatAreShared(t *testing.T) {
-	h := fullHeap()
-	for slot := range h.Objs {
-		h.Objs[slot].Field = h.Objs[0].Field
-	}
-	h.Buffer = h.Objs[0].Field
+	h := oneListHeap()
 	before := wholeHeap(h)
 	more := impl.Gain(h, 8)
 	less, freed := impl.Lose(h, h.Buffer)
