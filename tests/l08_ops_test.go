@@ -43,10 +43,10 @@ func TestOperationConstants(t *testing.T) {
 	}
 }
 
-// liveSlot: where what has the id is live, by going through all of them.
+// liveSlot: where what has the id is live, by going through all of them; no id is below 8.
 func liveSlot(h impl.Heap, id int) int {
 	for slot, o := range h.Objs {
-		if o.Live && id == slot+8*o.Gen {
+		if o.Live && o.Gen > 0 && id == slot+8*o.Gen {
 			return slot
 		}
 	}
@@ -352,6 +352,12 @@ func TestRightHeapStaysRightInLongPlays(t *testing.T) {
 			}
 		}
 	}
+	holdManifold(t, freed, answered)
+}
+
+// holdManifold: plays that free nothing, or have not each kind taken and refused, would hold little.
+func holdManifold(t *testing.T, freed map[int]int, answered map[[2]int]int) {
+	t.Helper()
 	for n := 1; n <= 3; n++ {
 		if freed[n] == 0 {
 			t.Errorf("no play frees %d at once", n)
