@@ -409,8 +409,9 @@ func TestCollectInPlays(t *testing.T) {
 	}
 }
 
-// Each way in which three objects can lead to each other by two fields, and be held, with all that leaks suspected at one place or at all.
-func TestCollectOfAllThatThreeCanBe(t *testing.T) {
+// eachThree asks of each right heap in which three objects lead to each other by two fields, and are held or not.
+func eachThree(t *testing.T, ask func(what string, h impl.Heap)) {
+	t.Helper()
 	fields := func(n int) []int { return []int{n%4 - 1, n/4%4 - 1} }
 	asked := 0
 	for n := range 4096 * 8 {
@@ -419,9 +420,7 @@ func TestCollectOfAllThatThreeCanBe(t *testing.T) {
 			continue // nothing keeps it, so no right heap has it
 		}
 		asked++
-		for _, slots := range [][]int{{0}, {1, 2}, {2, 1, 0}} {
-			holdCollected(t, fmt.Sprintf("three, %d, suspected %v", n, slots), purple(heapCopy(h), slots...))
-		}
+		ask(fmt.Sprint("three, ", n), h)
 		if t.Failed() {
 			return
 		}
@@ -429,6 +428,15 @@ func TestCollectOfAllThatThreeCanBe(t *testing.T) {
 	if asked < 10000 {
 		t.Errorf("only %d heaps were asked", asked)
 	}
+}
+
+// All that leaks is suspected at one place or at all.
+func TestCollectOfAllThatThreeCanBe(t *testing.T) {
+	eachThree(t, func(what string, h impl.Heap) {
+		for _, slots := range [][]int{{0}, {1, 2}, {2, 1, 0}} {
+			holdCollected(t, fmt.Sprintf("%s, suspected %v", what, slots), purple(heapCopy(h), slots...))
+		}
+	})
 }
 
 func TestCollectOfAnEmptyBuffer(t *testing.T) {
